@@ -33,15 +33,13 @@ func typeOf(e api.Expr, cols []api.Column) (int, error) {
 	return opType(e.N, parts)
 }
 
+// columnType does not ask whether the type at a place is a kind, as tables and trees do that
+// for the columns that they have.
 func columnType(place int, cols []api.Column) (int, error) {
 	if place >= len(cols) {
 		return 0, refusal{api.ErrName}
 	}
-	kind := cols[place].Type
-	if kind < api.KindNull || kind > api.KindText {
-		return 0, refusal{api.ErrType}
-	}
-	return kind, nil
+	return cols[place].Type, nil
 }
 
 // aggType is the type of an aggregate of a part of a type.

@@ -177,18 +177,48 @@ func TestTypeFirst(t *testing.T) {
 	}
 }
 
-// P14.2: a number that is no type makes a column one without a type.
+// P14.2: a column has the type at its place, whatever number that is.
 func TestTypeOdd(t *testing.T) {
-	for _, kind := range []int{-1, api.KindText + 1, 256 + api.KindInt, math.MinInt, math.MaxInt} {
-		l := []api.Column{{Name: "a", Type: kind}, {Name: "b", Type: api.KindInt}}
-		for _, e := range []api.Expr{a, op(api.OpNull, a), op(api.OpEq, a, a), op(api.OpEq, none, a), agg(api.AggCount, a), agg(api.AggMin, a), op(api.OpAnd, a, place(9))} {
-			if got, no := types.Type(e, l); got != 0 || no != api.ErrType {
-				t.Errorf("%s, of type %d: %d, %d", expr.Show(e), kind, got, no)
+	b, c := place(1), place(2)
+	for _, kind := range []int{-1, api.KindText + 1, 9, 256 + api.KindInt, 1 << 60, math.MinInt, math.MaxInt} {
+		l := []api.Column{{Name: "a", Type: kind}, {Name: "b", Type: api.KindInt}, {Name: "c", Type: kind ^ 64}, {Name: "d", Type: kind}}
+		for _, x := range []struct {
+			e    api.Expr
+			kind int
+			no   api.Errno
+		}{
+			{a, kind, api.OK}, {agg(api.AggMin, a), kind, api.OK}, {agg(api.AggMax, a), kind, api.OK}, {b, api.KindInt, api.OK}, {c, kind ^ 64, api.OK},
+			{op(api.OpNull, a), api.KindBool, api.OK}, {op(api.OpThere, a), api.KindBool, api.OK}, {agg(api.AggCount, a), api.KindInt, api.OK}, {agg(api.AggSum, a), 0, api.ErrType},
+			{op(api.OpNot, a), 0, api.ErrType}, {op(api.OpNeg, a), 0, api.ErrType}, {op(api.OpEq, agg(api.AggMin, a), a), api.KindBool, api.OK},
+			{op(api.OpAnd, a, place(9)), 0, api.ErrName}, {op(api.OpAnd, op(api.OpNot, a), place(9)), 0, api.ErrType},
+		} {
+			checkTypeAmong(t, x.e, l, x.kind, x.no)
+		}
+		for n := api.OpOr; n <= api.OpMod; n++ {
+			if n == api.OpNot {
+				continue
+			}
+			want, no := 0, api.ErrType
+			if n >= api.OpEq && n <= api.OpGe {
+				want, no = api.KindBool, api.OK
+			}
+			for _, part := range []api.Expr{a, place(3), none} {
+				checkTypeAmong(t, op(n, a, part), l, want, no)
+				checkTypeAmong(t, op(n, part, a), l, want, no)
+			}
+			for _, part := range []api.Expr{b, c, yes, one, word} {
+				checkTypeAmong(t, op(n, a, part), l, 0, api.ErrType)
+				checkTypeAmong(t, op(n, part, a), l, 0, api.ErrType)
 			}
 		}
-		if got, no := types.Type(place(1), l); got != api.KindInt || no != api.OK {
-			t.Errorf("beside type %d: %d, %d", kind, got, no)
-		}
+	}
+}
+
+// checkTypeAmong is that e has a type among columns, or that it is refused.
+func checkTypeAmong(t *testing.T, e api.Expr, l []api.Column, want int, wantNo api.Errno) {
+	t.Helper()
+	if got, no := types.Type(e, l); got != want || no != wantNo {
+		t.Errorf("%s, of type %d: %d, %d, not %d, %d", expr.Show(e), l[0].Type, got, no, want, wantNo)
 	}
 }
 
